@@ -1,0 +1,258 @@
+package tests
+
+import (
+	"math"
+	"slices"
+	"testing"
+
+	"loop.example/strategiesthatspread/impl"
+)
+
+// sameRows reports whether two tables have the same rows.
+func sameRows(a, b [][]int) bool {
+	return slices.EqualFunc(a, b, slices.Equal)
+}
+
+// cloned returns a copy of a table that shares nothing with it.
+func cloned(a [][]int) [][]int {
+	var b [][]int
+	for _, row := range a {
+		b = append(b, slices.Clone(row))
+	}
+	return b
+}
+
+// turned returns a table with rows as columns.
+func turned(a [][]int) [][]int {
+	b := make([][]int, len(a[0]))
+	for _, row := range a {
+		for j, n := range row {
+			b[j] = append(b[j], n)
+		}
+	}
+	return b
+}
+
+// exchanged returns a game with the first player as the second one.
+func exchanged(g impl.Game) impl.Game {
+	return impl.Game{A: turned(g.B), B: turned(g.A)}
+}
+
+// draw gives the same row of numbers at each run.
+type draw uint64
+
+// below returns the next number of 0 up to less than n.
+func (d *draw) below(n int) int {
+	*d = *d*6364136223846793005 + 1442695040888963407
+	return int(uint64(*d)>>33) % n
+}
+
+// table returns a table with numbers in -size..size.
+func (d *draw) table(rows, cols, size int) [][]int {
+	a := make([][]int, rows)
+	for i := range a {
+		for range cols {
+			a[i] = append(a[i], d.below(2*size+1)-size)
+		}
+	}
+	return a
+}
+
+// shapes are all numbers of rows and columns that a table may have.
+func shapes() [][2]int {
+	var all [][2]int
+	for rows := 1; rows <= impl.MaxActs; rows++ {
+		for cols := 1; cols <= impl.MaxActs; cols++ {
+			all = append(all, [2]int{rows, cols})
+		}
+	}
+	return all
+}
+
+// drawnTables are tables of each shape, with many numbers that are the same and with few.
+func drawnTables() [][][]int {
+	d := draw(1)
+	var all [][][]int
+	for _, shape := range shapes() {
+		for _, size := range []int{0, 1, 2, impl.MaxPay} {
+			for range 40 {
+				all = append(all, d.table(shape[0], shape[1], size))
+			}
+		}
+	}
+	return all
+}
+
+// drawnGames are games of each shape, with many numbers that are the same and with few.
+func drawnGames() []impl.Game {
+	d := draw(2)
+	var all []impl.Game
+	for _, shape := range shapes() {
+		for _, size := range []int{0, 1, 2, impl.MaxPay} {
+			for range 120 {
+				a, b := d.table(shape[0], shape[1], size), d.table(shape[0], shape[1], size)
+				all = append(all, impl.Game{A: a, B: b})
+			}
+		}
+	}
+	return all
+}
+
+// smallGames are all games of two rows and two columns with numbers in -1..1.
+func smallGames() []impl.Game {
+	var all []impl.Game
+	for k := range 3 * 3 * 3 * 3 * 3 * 3 * 3 * 3 {
+		var n [8]int
+		for i := range n {
+			n[i] = k%3 - 1
+			k /= 3
+		}
+		all = append(all, impl.Game{A: [][]int{{n[0], n[1]}, {n[2], n[3]}}, B: [][]int{{n[4], n[5]}, {n[6], n[7]}}})
+	}
+	return all
+}
+
+// potentialGame returns a game of a shape that has a potential, and this potential.
+func potentialGame(d *draw, rows, cols int) (impl.Game, [][]int) {
+	p := d.table(rows, cols, 3)
+	byColumn, byRow := d.table(1, cols, 3)[0], d.table(1, rows, 3)[0]
+	first := p[0][0]
+	g := impl.Game{A: cloned(p), B: cloned(p)}
+	for i := range p {
+		for j := range p[i] {
+			g.A[i][j] += byColumn[j]
+			g.B[i][j] += byRow[i]
+			p[i][j] -= first
+		}
+	}
+	return g, p
+}
+
+// potentialGames are games of each shape that have a potential.
+func potentialGames() []impl.Game {
+	d := draw(3)
+	var all []impl.Game
+	for _, shape := range shapes() {
+		for range 40 {
+			g, _ := potentialGame(&d, shape[0], shape[1])
+			all = append(all, g)
+		}
+	}
+	return all
+}
+
+// allGames are all games with which the tests try what holds of each one.
+func allGames() []impl.Game {
+	return slices.Concat(smallGames(), drawnGames(), potentialGames())
+}
+
+// badTables are tables that are not valid.
+func badTables() [][][]int {
+	return [][][]int{
+		nil,
+		{},
+		{nil},
+		{{}},
+		{{}, {}},
+		{{}, {1}},
+		{{1}, {}},
+		{{1}, nil, {1}},
+		{{1}, {1}, {1}, {1}},
+		{{1, 2, 3}, {1, 2, 3}, {1, 2, 3}, {1, 2, 3}},
+		{{1, 2, 3, 4}},
+		{{1, 2, 3, 4}, {1, 2, 3, 4}, {1, 2, 3, 4}},
+		make([][]int, 1000),
+		{make([]int, 1000)},
+		{{1}, {1, 2}},
+		{{1, 2}, {1}},
+		{{1, 2, 3}, {1, 2, 3}, {1, 2}},
+		{{1, 2, 3}, {1, 2, 3}, {1, 2, 3, 4}},
+		{{1, 2}, {1, 2, 3}, {1, 2}},
+		{{impl.MaxPay + 1}},
+		{{-impl.MaxPay - 1}},
+		{{0, impl.MaxPay + 1}, {0, 0}},
+		{{0, 0}, {-impl.MaxPay - 1, 0}},
+		{{0, 0, 0}, {0, 0, 0}, {0, 0, impl.MaxPay + 1}},
+		{{0, 0, 0}, {0, 0, 0}, {0, 0, -impl.MaxPay - 1}},
+		{{math.MaxInt}},
+		{{0, math.MinInt}},
+	}
+}
+
+// badGames are games that are not valid.
+func badGames() []impl.Game {
+	var all []impl.Game
+	for _, bad := range badTables() {
+		good := [][]int{{1}}
+		if len(bad) >= 1 && len(bad) <= impl.MaxActs && len(bad[0]) >= 1 && len(bad[0]) <= impl.MaxActs {
+			d := draw(4)
+			good = d.table(len(bad), len(bad[0]), 2)
+		}
+		all = append(all, impl.Game{A: bad, B: good}, impl.Game{A: good, B: bad}, impl.Game{A: bad, B: bad})
+	}
+	d := draw(5)
+	for _, one := range shapes() {
+		for _, other := range shapes() {
+			if one != other {
+				all = append(all, impl.Game{A: d.table(one[0], one[1], 2), B: d.table(other[0], other[1], 2)})
+			}
+		}
+	}
+	return all
+}
+
+// guard is a table whose rows lie in one array, with spare numbers behind each one.
+type guard struct {
+	table [][]int
+	array []int
+	kept  []int
+}
+
+// guarded returns a table laid out so that each change around it can be seen.
+func guarded(a [][]int) guard {
+	const spare = 55
+	var array []int
+	for _, row := range a {
+		array = append(append(array, row...), spare, spare)
+	}
+	table := make([][]int, 0, len(a)+1)
+	at := 0
+	for _, row := range a {
+		table = append(table, array[at:at+len(row)])
+		at += len(row) + 2
+	}
+	return guard{table: table, array: array, kept: slices.Clone(array)}
+}
+
+// unchanged reports whether the table, its rows and the numbers around them are as they were.
+func (g guard) unchanged() bool {
+	at := 0
+	for _, row := range g.table {
+		if len(row) == 0 || &row[0] != &g.array[at] {
+			return false
+		}
+		at += len(row) + 2
+	}
+	return at == len(g.array) && g.table[:cap(g.table)][len(g.table)] == nil && slices.Equal(g.array, g.kept)
+}
+
+// scribble writes over a list and over its spare capacity.
+func scribble(list []int) {
+	list = list[:cap(list)]
+	for i := range list {
+		list[i] = -777
+	}
+}
+
+// checkApart writes over each of the lists, and fails if this changes another one.
+func checkApart(t *testing.T, name string, lists ...[]int) {
+	t.Helper()
+	for i := range lists {
+		scribble(lists[i])
+		for j := i + 1; j < len(lists); j++ {
+			if slices.Contains(lists[j], -777) {
+				t.Fatalf("%s: the lists %d and %d of its result share memory", name, i, j)
+			}
+		}
+	}
+}

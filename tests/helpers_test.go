@@ -256,3 +256,107 @@ func checkApart(t *testing.T, name string, lists ...[]int) {
 		}
 	}
 }
+
+// otherSign returns a table with each number with the other sign.
+func otherSign(a [][]int) [][]int {
+	b := cloned(a)
+	for _, row := range b {
+		for j := range row {
+			row[j] = -row[j]
+		}
+	}
+	return b
+}
+
+// otherSide returns a table as the second player has it, with columns as rows.
+func otherSide(a [][]int) [][]int {
+	return otherSign(turned(a))
+}
+
+// mixTables are all tables with which the tests of mixes try what holds of each one.
+func mixTables() [][][]int {
+	all := drawnTables()
+	for _, shape := range [][2]int{{2, 2}, {2, 3}, {3, 2}} {
+		all = append(all, smallTables(shape[0], shape[1])...)
+	}
+	d := draw(7)
+	for _, size := range []int{1, 2, 3, impl.MaxPay} {
+		for range 300 {
+			all = append(all, d.table(3, 3, size))
+		}
+	}
+	return all
+}
+
+// smallTables are all tables of a shape with numbers in -1..1.
+func smallTables(rows, cols int) [][][]int {
+	all := [][][]int{nil}
+	for range rows {
+		var more [][][]int
+		for _, a := range all {
+			for _, row := range smallRows(cols) {
+				more = append(more, append(cloned(a), row))
+			}
+		}
+		all = more
+	}
+	return all
+}
+
+// smallRows are all rows of some numbers in -1..1.
+func smallRows(cols int) [][]int {
+	all := [][]int{nil}
+	for range cols {
+		var more [][]int
+		for _, row := range all {
+			for n := -1; n <= 1; n++ {
+				more = append(more, append(slices.Clone(row), n))
+			}
+		}
+		all = more
+	}
+	return all
+}
+
+// alone returns shares of n things of which only thing i has one.
+func alone(i, n, share int) []int {
+	w := make([]int, n)
+	w[i] = share
+	return w
+}
+
+// drawnShares are shares of n things: each one alone, and some with small and some with great numbers.
+func drawnShares(d *draw, n int) [][]int {
+	var all [][]int
+	for i := range n {
+		all = append(all, alone(i, n, 1+d.below(impl.MaxShare)))
+	}
+	for _, most := range []int{1, 3, impl.MaxShare} {
+		w := make([]int, n)
+		for i := range w {
+			w[i] = d.below(most + 1)
+		}
+		w[d.below(n)] = most
+		all = append(all, w)
+	}
+	return all
+}
+
+// badShares are rows of numbers that are not shares of n things.
+func badShares(n int) [][]int {
+	all := [][]int{nil, {}, make([]int, n), make([]int, 1000)}
+	for length := 1; length <= impl.MaxActs+1; length++ {
+		if length != n {
+			all = append(all, alone(0, length, 1), alone(length-1, length, 1))
+		}
+	}
+	for i := range n {
+		for _, share := range []int{-1, impl.MaxShare + 1, math.MinInt, math.MaxInt, -impl.MaxShare} {
+			all = append(all, alone(i, n, share))
+			w := slices.Repeat([]int{1}, n)
+			w[i] = share
+			all = append(all, w)
+		}
+	}
+	return all
+}

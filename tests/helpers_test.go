@@ -360,3 +360,21 @@ func badShares(n int) [][]int {
 	}
 	return all
 }
+
+// squareTables are all tables with as many rows as columns with which the tests try what holds of each one.
+func squareTables() [][][]int {
+	isNoSquare := func(a [][]int) bool { return len(a) != len(a[0]) }
+	return slices.DeleteFunc(mixTables(), isNoSquare)
+}
+
+// badSquares are tables that are not valid, and tables with more rows than columns, or fewer.
+func badSquares() [][][]int {
+	all := badTables()
+	d := draw(16)
+	for _, shape := range shapes() {
+		if shape[0] != shape[1] {
+			all = append(all, d.table(shape[0], shape[1], 0), d.table(shape[0], shape[1], 2))
+		}
+	}
+	return all
+}

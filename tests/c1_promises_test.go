@@ -89,19 +89,13 @@ func TestPromise7GamesOfOneRowHaveNoRounds(t *testing.T) {
 }
 
 func TestPromise7ExchangedPlayersHaveTheSameRounds(t *testing.T) {
-	held, failed := 0, 0
+	var counts tally
 	for _, g := range slices.Concat(allGames(), roundGames()) {
 		is := impl.NoRounds(g)
 		if is != impl.NoRounds(exchanged(g)) {
 			t.Fatalf("NoRounds(%v) = %v, and exchanged it is not", g, is)
 		}
-		if is {
-			held++
-		} else {
-			failed++
-		}
+		counts.add(is)
 	}
-	if held == 0 || failed == 0 {
-		t.Errorf("NoRounds holds of %d games, and of %d not", held, failed)
-	}
+	counts.check(t, 1)
 }

@@ -285,7 +285,7 @@ func TestAreBest(t *testing.T) {
 
 func TestAreBestHoldsOfAllThatMakeTheValueSure(t *testing.T) {
 	d := draw(10)
-	held, failed := 0, 0
+	var counts tally
 	for _, a := range drawnTables() {
 		for _, x := range triedShares(&d, a) {
 			for _, y := range triedShares(&d, otherSide(a)) {
@@ -293,17 +293,11 @@ func TestAreBestHoldsOfAllThatMakeTheValueSure(t *testing.T) {
 				if got := impl.AreBest(a, x, y); got != want {
 					t.Fatalf("AreBest(%v, %v, %v) = %v", a, x, y, got)
 				}
-				if want {
-					held++
-				} else {
-					failed++
-				}
+				counts.add(want)
 			}
 		}
 	}
-	if held < 1000 || failed < 1000 {
-		t.Errorf("AreBest holds of %d shares, and of %d not", held, failed)
-	}
+	counts.check(t, 1000)
 }
 
 // triedShares are the best shares of the rows of a table, as often as once and more, and others.

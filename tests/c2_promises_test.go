@@ -124,7 +124,7 @@ func TestPromise11TheValueIsTheSameFromBothSides(t *testing.T) {
 
 func TestPromise12BestSharesMakeTheValueSureAndNoMore(t *testing.T) {
 	d := draw(15)
-	held, failed := 0, 0
+	var counts tally
 	for _, a := range drawnTables() {
 		v, other := valueOf(t, a), otherSide(a)
 		for _, x := range triedShares(&d, a) {
@@ -133,17 +133,11 @@ func TestPromise12BestSharesMakeTheValueSureAndNoMore(t *testing.T) {
 				if got := impl.AreBest(a, x, y); got != want {
 					t.Fatalf("AreBest(%v, %v, %v) = %v, with the value %v", a, x, y, got, v)
 				}
-				if want {
-					held++
-				} else {
-					failed++
-				}
+				counts.add(want)
 			}
 		}
 	}
-	if held == 0 || failed == 0 {
-		t.Errorf("AreBest holds of %d shares, and of %d not", held, failed)
-	}
+	counts.check(t, 1)
 }
 
 func TestPromise13TheBestSharesAreBest(t *testing.T) {
@@ -159,7 +153,7 @@ func TestPromise13TheBestSharesAreBest(t *testing.T) {
 }
 
 func TestPromise69RestsOfWhatTheOtherLacksAreTheValue(t *testing.T) {
-	with, without := 0, 0
+	var counts tally
 	for _, a := range mixTables() {
 		v := valueOf(t, a)
 		rests := impl.PureRests(impl.Game{A: a, B: otherSign(a)})
@@ -174,25 +168,14 @@ func TestPromise69RestsOfWhatTheOtherLacksAreTheValue(t *testing.T) {
 		if both != (len(rests) > 0) {
 			t.Fatalf("of %v with the value %v both make %d and %d sure, but the rests are %v", a, v, sure, other, rests)
 		}
-		if both {
-			with++
-		} else {
-			without++
-		}
+		counts.add(both)
 	}
-	if with == 0 || without == 0 {
-		t.Errorf("%d tables have rests, and %d have none", with, without)
-	}
+	counts.check(t, 1)
 }
 
 func TestPromise70ValuesGoWithAllNumbers(t *testing.T) {
 	for _, a := range mixTables() {
-		more := cloned(a)
-		for _, row := range more {
-			for j := range row {
-				row[j]++
-			}
-		}
+		more := raised(a, 1)
 		if !impl.ValidTable(more) {
 			continue
 		}

@@ -68,7 +68,7 @@ func TestPromise14SquaresMayBeTurned(t *testing.T) {
 }
 
 func TestPromise15StableStrategiesRestWithABarrier(t *testing.T) {
-	held, failed := 0, 0
+	var counts tally
 	for _, a := range squareTables() {
 		stable := impl.StableOf(a)
 		for i := range a {
@@ -79,16 +79,10 @@ func TestPromise15StableStrategiesRestWithABarrier(t *testing.T) {
 			if slices.Contains(stable, i) != want {
 				t.Fatalf("StableOf(%v) = %v, but that %d rests with a barrier against each other one is %v", a, stable, i, want)
 			}
-			if want {
-				held++
-			} else {
-				failed++
-			}
+			counts.add(want)
 		}
 	}
-	if held < 100 || failed < 100 {
-		t.Errorf("%d strategies are stable, and %d are not", held, failed)
-	}
+	counts.check(t, 100)
 }
 
 func TestPromise16BarriersAreWhereBothHaveAsMuch(t *testing.T) {
@@ -155,7 +149,7 @@ func TestPromise67StableStrategiesAreRestsAlone(t *testing.T) {
 }
 
 func TestPromise68AStrategyRestsIfBothDo(t *testing.T) {
-	held, failed := 0, 0
+	var counts tally
 	for _, a := range squareTables() {
 		pairs := impl.PureRests(ofBoth(a))
 		for i := range a {
@@ -163,16 +157,10 @@ func TestPromise68AStrategyRestsIfBothDo(t *testing.T) {
 			if is != has(pairs, i, i) {
 				t.Fatalf("two who play %v rest at %v, but IsRest of %d alone is %v", a, pairs, i, is)
 			}
-			if is {
-				held++
-			} else {
-				failed++
-			}
+			counts.add(is)
 		}
 	}
-	if held < 100 || failed < 100 {
-		t.Errorf("IsRest holds of %d strategies alone, and of %d not", held, failed)
-	}
+	counts.check(t, 100)
 }
 
 func TestPromise71FairGamesHaveTheValue0(t *testing.T) {

@@ -228,23 +228,17 @@ func rests(a [][]int, w []int) bool {
 
 func TestIsRestHoldsWhereNoOneHasMore(t *testing.T) {
 	d := draw(17)
-	held, failed := 0, 0
+	var counts tally
 	for _, a := range squareTables() {
 		for _, w := range append(wantedRests(a), drawnShares(&d, len(a))...) {
 			want := rests(a, w)
 			if got := impl.IsRest(a, w); got != want {
 				t.Fatalf("IsRest(%v, %v) = %v", a, w, got)
 			}
-			if want {
-				held++
-			} else {
-				failed++
-			}
+			counts.add(want)
 		}
 	}
-	if held < 1000 || failed < 1000 {
-		t.Errorf("IsRest holds of %d shares, and of %d not", held, failed)
-	}
+	counts.check(t, 1000)
 }
 
 func TestRestsOn(t *testing.T) {

@@ -378,3 +378,91 @@ func badSquares() [][][]int {
 	}
 	return all
 }
+
+// raised returns a table with as much added to all numbers.
+func raised(a [][]int, more int) [][]int {
+	b := cloned(a)
+	for _, row := range b {
+		for j := range row {
+			row[j] += more
+		}
+	}
+	return b
+}
+
+// mirrored returns a square in which the numbers below those of a row and a column that are the same are those above them.
+func mirrored(a [][]int) [][]int {
+	b := cloned(a)
+	for i := range b {
+		for j := range i {
+			b[i][j] = b[j][i]
+		}
+	}
+	return b
+}
+
+// fieldTables are all fields with which the tests try what holds of each one: with few numbers, with all, and tables of ones and of the greatest number.
+func fieldTables() [][][]int {
+	var all [][][]int
+	for n := 1; n <= impl.MaxPay; n++ {
+		all = append(all, [][]int{{n}})
+	}
+	for size := 1; size <= impl.MaxActs; size++ {
+		all = append(all, sameSquare(1, size), sameSquare(impl.MaxPay, size))
+	}
+	for _, a := range smallTables(2, 2) {
+		all = append(all, raised(a, 2))
+	}
+	for k, a := range smallTables(3, 3) {
+		if k%29 == 0 {
+			all = append(all, raised(a, 2))
+		}
+	}
+	d := draw(19)
+	for range 300 {
+		all = append(all, raised(d.table(2, 2, 4), 5), raised(d.table(3, 3, 4), 5))
+	}
+	return all
+}
+
+// badFields are tables that are no squares, and squares in which one number or each one is less than 1.
+func badFields() [][][]int {
+	all := badSquares()
+	d := draw(31)
+	for _, shape := range shapes() {
+		if shape[0] != shape[1] {
+			all = append(all, raised(d.table(shape[0], shape[1], 0), 1), raised(d.table(shape[0], shape[1], 4), 5))
+		}
+	}
+	for size := 1; size <= impl.MaxActs; size++ {
+		for _, n := range []int{0, -1, -impl.MaxPay} {
+			all = append(all, sameSquare(n, size))
+			for place := range size * size {
+				a := cloned(sameSquare(impl.MaxPay, size))
+				a[place/size][place%size] = n
+				all = append(all, a)
+			}
+		}
+	}
+	return all
+}
+
+// tally counts of how many things something holds, and of how many it does not.
+type tally struct{ held, failed int }
+
+// add counts one thing more.
+func (c *tally) add(holds bool) {
+	if holds {
+		c.held++
+	} else {
+		c.failed++
+	}
+}
+
+// check fails if something holds of too few things, or fails of too few, to be tried well.
+func (c *tally) check(t *testing.T, least int) {
+	t.Helper()
+	if c.held < least || c.failed < least {
+		t.Errorf("it holds of %d things, and of %d not", c.held, c.failed)
+	}
+}

@@ -447,6 +447,43 @@ func badFields() [][][]int {
 	return all
 }
 
+// pairTables are all fields of two strategies.
+func pairTables() [][][]int {
+	var all [][][]int
+	for k := range impl.MaxPay * impl.MaxPay * impl.MaxPay * impl.MaxPay {
+		var n [4]int
+		for i := range n {
+			n[i] = 1 + k%impl.MaxPay
+			k /= impl.MaxPay
+		}
+		all = append(all, [][]int{{n[0], n[1]}, {n[2], n[3]}})
+	}
+	return all
+}
+
+// badPairs are tables that are no fields, and fields of one strategy and of three.
+func badPairs() [][][]int {
+	all := badFields()
+	for _, a := range fieldTables() {
+		if len(a) != 2 {
+			all = append(all, a)
+		}
+	}
+	for place := range 4 {
+		for _, n := range []int{impl.MaxPay + 1, math.MaxInt, math.MinInt} {
+			a := [][]int{{1, 1}, {1, 1}}
+			a[place/2][place%2] = n
+			all = append(all, a)
+		}
+	}
+	return append(all, [][]int{{1, 2}, {3}}, [][]int{{1}, {2, 3}}, [][]int{{1, 2}}, [][]int{{1}, {2}}, [][]int{{1, 2}, {3, 4}, {5, 6}})
+}
+
+// bothExchanged returns a table of two strategies with the first one as the second.
+func bothExchanged(a [][]int) [][]int {
+	return [][]int{{a[1][1], a[1][0]}, {a[0][1], a[0][0]}}
+}
+
 // tally counts of how many things something holds, and of how many it does not.
 type tally struct{ held, failed int }
 

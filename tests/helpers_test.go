@@ -484,6 +484,98 @@ func bothExchanged(a [][]int) [][]int {
 	return [][]int{{a[1][1], a[1][0]}, {a[0][1], a[0][0]}}
 }
 
+// compositions are all rows of numbers of at least 1 with the sum n.
+func compositions(n int) [][]int {
+	if n == 0 {
+		return [][]int{nil}
+	}
+	var all [][]int
+	for last := 1; last <= n; last++ {
+		for _, row := range compositions(n - last) {
+			all = append(all, append(slices.Clone(row), last))
+		}
+	}
+	return all
+}
+
+// grows reports whether a number of a row is greater than the one ahead of it.
+func grows(row []int) bool {
+	for i := 1; i < len(row); i++ {
+		if row[i] > row[i-1] {
+			return true
+		}
+	}
+	return false
+}
+
+// sizeRows are all sizes of kinds of n things, that with the greater number at the first place where two differ first.
+func sizeRows(n int) [][]int {
+	all := slices.DeleteFunc(compositions(n), grows)
+	slices.SortFunc(all, func(a, b []int) int { return slices.Compare(b, a) })
+	return all
+}
+
+// allSizeRows are all sizes of kinds that are valid.
+func allSizeRows() [][]int {
+	var all [][]int
+	for n := 1; n <= impl.MaxUrn; n++ {
+		all = append(all, sizeRows(n)...)
+	}
+	return all
+}
+
+// badParts are rows of numbers that are no sizes of kinds.
+func badParts() [][]int {
+	all := [][]int{
+		nil,
+		{},
+		{0},
+		{-1},
+		{0, 0},
+		{1, 0},
+		{0, 1},
+		{3, -1},
+		{2, 0, 1},
+		{5, 2, 0},
+		{impl.MaxUrn, 0},
+		{impl.MaxUrn, -1},
+		{2, 1, 0, -1},
+		{4, 4, -1},
+		{impl.MaxUrn + 1},
+		{impl.MaxUrn + 1, -1},
+		{impl.MaxUrn, 1},
+		{4, 4},
+		{6, 1, 1},
+		slices.Repeat([]int{1}, impl.MaxUrn+1),
+		slices.Repeat([]int{1}, 1000),
+		make([]int, 1000),
+		{1, 2},
+		{1, 1, 2},
+		{3, 1, 2},
+		{2, 3, 1},
+		{1, 6},
+		{math.MinInt},
+		{math.MaxInt},
+		{1, math.MaxInt},
+		{1, math.MinInt},
+		// All together these are few again, as sums of an int go round.
+		{math.MaxInt, math.MaxInt, 3},
+		{math.MaxInt, math.MaxInt, 2, 2},
+		{math.MaxInt, math.MinInt, 4},
+		{math.MaxInt/2 + 1, math.MaxInt/2 + 1, math.MaxInt/2 + 1, math.MaxInt/2 + 1, 3},
+	}
+	// Those of one thing too many, and all that are valid but for their order.
+	all = append(all, sizeRows(impl.MaxUrn+1)...)
+	for n := 1; n <= impl.MaxUrn; n++ {
+		for _, row := range compositions(n) {
+			if grows(row) {
+				all = append(all, row)
+			}
+		}
+	}
+	return all
+}
+
 // tally counts of how many things something holds, and of how many it does not.
 type tally struct{ held, failed int }
 

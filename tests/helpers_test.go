@@ -576,6 +576,245 @@ func badParts() [][]int {
 	return all
 }
 
+// membersOf are the members of a set, a sum of 2 to each of them, ascending.
+func membersOf(set int) []int {
+	var all []int
+	for i := 0; set > 0; i++ {
+		if set%2 == 1 {
+			all = append(all, i)
+		}
+		set /= 2
+	}
+	return all
+}
+
+// allReached reports whether sets of neighbours lead from the place 0 to all places.
+func allReached(g []int) bool {
+	reached := 1
+	for range g {
+		for _, i := range membersOf(reached) {
+			reached |= g[i]
+		}
+	}
+	return reached == 1<<len(g)-1
+}
+
+// graphsOf are all graphs of n places.
+func graphsOf(n int) [][]int {
+	all := [][]int{make([]int, n)}
+	for j := range n {
+		for i := range j {
+			for _, g := range all {
+				more := slices.Clone(g)
+				more[i] |= 1 << j
+				more[j] |= 1 << i
+				all = append(all, more)
+			}
+		}
+	}
+	return slices.DeleteFunc(all, func(g []int) bool { return !allReached(g) })
+}
+
+// allGraphs are all graphs that are valid.
+func allGraphs() [][]int {
+	var all [][]int
+	for n := 2; n <= impl.MaxPlaces; n++ {
+		all = append(all, graphsOf(n)...)
+	}
+	return all
+}
+
+// fullGraph returns the graph in which all of n places are neighbours of each other.
+func fullGraph(n int) []int {
+	g := make([]int, n)
+	for i := range g {
+		g[i] = 1<<n - 1 - 1<<i
+	}
+	return g
+}
+
+// starOf returns the graph of n places in which one place is the only neighbour of all others.
+func starOf(n, middle int) []int {
+	g := slices.Repeat([]int{1 << middle}, n)
+	g[middle] = 1<<n - 1 - 1<<middle
+	return g
+}
+
+// badGraphs are rows of numbers that are no graphs.
+func badGraphs() [][]int {
+	all := [][]int{
+		nil,
+		{},
+		// Fewer than 2 places, or more than MaxPlaces.
+		{0},
+		{1},
+		{2},
+		{2, 5, 10, 20, 40, 16},
+		{34, 5, 10, 20, 40, 17},
+		fullGraph(impl.MaxPlaces + 1),
+		starOf(impl.MaxPlaces+1, 0),
+		starOf(63, 5),
+		make([]int, 1000),
+		slices.Repeat([]int{2}, 1000),
+		// A place that is its own neighbour.
+		{3, 1},
+		{2, 3},
+		{3, 3},
+		{1, 2},
+		{2, 7, 2},
+		{15, 1, 1, 1},
+		{2, 5, 10, 20, 24},
+		// A neighbour that is not one in turn.
+		{2, 0},
+		{0, 1},
+		{2, 4, 1},
+		{4, 1, 2},
+		{6, 1, 3},
+		{6, 5, 1},
+		{14, 1, 1, 0},
+		{0, 1, 1, 1},
+		{2, 5, 10, 20, 0},
+		{2, 5, 10, 4, 8},
+		// Places that are not there.
+		{4, 1},
+		{6, 1},
+		{2, 5},
+		{2, 9},
+		{2, 5, 10},
+		{2, 13, 2},
+		{14, 1, 1, 17},
+		{2, 5, 10, 20, 40},
+		{2 + 1<<62, 1},
+		// Numbers below 0.
+		{-1, 1},
+		{2, -1},
+		{-2, 1},
+		{-2, -3},
+		{-2, -3, -5},
+		{math.MinInt + 2, 1},
+		{math.MinInt, 0},
+		{math.MaxInt, math.MaxInt},
+		{math.MaxInt - 1, 1},
+		// Places that are not reached.
+		{0, 0},
+		{0, 0, 0},
+		{2, 1, 0},
+		{0, 4, 2},
+		{4, 0, 1},
+		{2, 1, 8, 4},
+		{8, 4, 2, 1},
+		{6, 5, 3, 0},
+		{0, 0, 0, 0, 0},
+		{2, 1, 24, 20, 12},
+		{6, 5, 3, 16, 8},
+		{0, 28, 26, 22, 14},
+		{14, 13, 11, 7, 0},
+	}
+	return all
+}
+
+// weightRows are weights of n places: none at all, the greatest, that of one place alone, and drawn ones.
+func weightRows(d *draw, n int) [][]int {
+	drawn := make([]int, n)
+	for i := range drawn {
+		drawn[i] = d.below(impl.MaxShare + 1)
+	}
+	return [][]int{make([]int, n), slices.Repeat([]int{impl.MaxShare}, n), alone(d.below(n), n, 1), drawn}
+}
+
+// badWeights are rows of numbers that are no weights of n places.
+func badWeights(n int) [][]int {
+	all := [][]int{nil, {}, slices.Repeat([]int{1}, n-1), slices.Repeat([]int{1}, n+1), make([]int, 1000)}
+	for i := range n {
+		for _, weight := range []int{math.MinInt, -impl.MaxShare, -1, impl.MaxShare + 1, math.MaxInt} {
+			w := slices.Repeat([]int{1}, n)
+			w[i] = weight
+			all = append(all, w, alone(i, n, weight))
+		}
+	}
+	return all
+}
+
+// badSets are numbers that are no sets of n places.
+func badSets(n int) []int {
+	return []int{math.MinInt, -1 << n, -2, -1, 1 << n, 1<<n + 1, 1<<(n+1) - 1, 1 << 62, math.MaxInt}
+}
+
+// fewSeats is the least number of places of a ring.
+const fewSeats = 3
+
+// ringsOf are all rings of n places with some strategies.
+func ringsOf(n, strategies int) [][]int {
+	all := [][]int{nil}
+	for range n {
+		var more [][]int
+		for _, ring := range all {
+			for i := range strategies {
+				more = append(more, append(slices.Clone(ring), i))
+			}
+		}
+		all = more
+	}
+	return all
+}
+
+// ring returns a ring of n places with some strategies.
+func (d *draw) ring(n, strategies int) []int {
+	ring := make([]int, n)
+	for i := range ring {
+		ring[i] = d.below(strategies)
+	}
+	return ring
+}
+
+// beats is a table in which each of three strategies beats one of the others.
+func beats() [][]int {
+	return [][]int{{0, -1, 1}, {1, 0, -1}, {-1, 1, 0}}
+}
+
+// dilemma is a table in which the strategy 1 always has more, and two of the strategy 0 have more than two of the strategy 1.
+func dilemma() [][]int {
+	return [][]int{{3, 0}, {5, 1}}
+}
+
+// forRings calls a function with tables and rings with which the tests try what holds of each one: all rings with some tables, and some rings with all.
+func forRings(try func(a [][]int, ring []int)) {
+	d := draw(34)
+	tables := [][][]int{{{-1}}, dilemma(), beats(), sameSquare(0, 2), sameSquare(-4, 3), {{-2, 3, -8}, {4, 9, -9}, {6, -3, -8}}}
+	for range 30 {
+		tables = append(tables, d.table(2, 2, 1), d.table(2, 2, impl.MaxPay))
+	}
+	tables = append(tables, d.table(3, 3, 2), d.table(3, 3, impl.MaxPay))
+	for _, a := range tables {
+		for n := fewSeats; n <= impl.MaxRing; n++ {
+			for _, ring := range ringsOf(n, len(a)) {
+				try(a, ring)
+			}
+		}
+	}
+	for _, a := range squareTables() {
+		for n := fewSeats; n <= impl.MaxRing; n++ {
+			try(a, slices.Repeat([]int{d.below(len(a))}, n))
+			try(a, d.ring(n, len(a)))
+		}
+	}
+}
+
+// badRings are rows of numbers that are no rings of some strategies.
+func badRings(strategies int) [][]int {
+	all := [][]int{nil, {}, {0}, {0, 0}, {0, strategies - 1}, make([]int, impl.MaxRing+1), make([]int, 1000)}
+	for n := fewSeats; n <= impl.MaxRing; n++ {
+		for i := range n {
+			for _, strategy := range []int{math.MinInt, -1, strategies, strategies + 1, math.MaxInt} {
+				ring := make([]int, n)
+				ring[i] = strategy
+				all = append(all, ring)
+			}
+		}
+	}
+	return all
+}
+
 // tally counts of how many things something holds, and of how many it does not.
 type tally struct{ held, failed int }
 

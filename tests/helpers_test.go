@@ -834,3 +834,180 @@ func (c *tally) check(t *testing.T, least int) {
 		t.Errorf("it holds of %d things, and of %d not", c.held, c.failed)
 	}
 }
+
+// echo is a machine that begins with 0 and then does what the other one did.
+func echo() impl.Moore {
+	return impl.Moore{Acts: []int{0, 1}, Next: [][]int{{0, 1}, {0, 1}}}
+}
+
+// always is a machine of one state, which does the same for ever.
+func always(act int) impl.Moore {
+	return impl.Moore{Acts: []int{act}, Next: [][]int{{0, 0}}}
+}
+
+// flip is a machine that does 1 and 0 by turns, whatever the other one does.
+func flip() impl.Moore {
+	return impl.Moore{Acts: []int{1, 0}, Next: [][]int{{1, 1}, {0, 0}}}
+}
+
+// grim is a machine that does 0 until the other one does 1, and then 1 for ever.
+func grim() impl.Moore {
+	return impl.Moore{Acts: []int{0, 1}, Next: [][]int{{0, 1}, {1, 1}}}
+}
+
+// clonedMoore returns a copy of a machine that shares nothing with it.
+func clonedMoore(m impl.Moore) impl.Moore {
+	return impl.Moore{Acts: slices.Clone(m.Acts), Next: cloned(m.Next)}
+}
+
+// sameMoore reports whether two machines have the same states.
+func sameMoore(m, o impl.Moore) bool {
+	return slices.Equal(m.Acts, o.Acts) && sameRows(m.Next, o.Next)
+}
+
+// mooreOf returns the machine of n states that a number tells, digit by digit.
+func mooreOf(n, number int) impl.Moore {
+	var m impl.Moore
+	digit := func(size int) int {
+		last := number % size
+		number /= size
+		return last
+	}
+	for range n {
+		m.Acts = append(m.Acts, digit(2))
+		m.Next = append(m.Next, []int{digit(n), digit(n)})
+	}
+	return m
+}
+
+// manyMoores tells how many machines of n states there are.
+func manyMoores(n int) int {
+	many := 1
+	for range n {
+		many *= 2 * n * n
+	}
+	return many
+}
+
+// mooresOf are all machines of n states.
+func mooresOf(n int) []impl.Moore {
+	all := make([]impl.Moore, manyMoores(n))
+	for number := range all {
+		all[number] = mooreOf(n, number)
+	}
+	return all
+}
+
+// moore returns one of the machines of n states.
+func (d *draw) moore(n int) impl.Moore {
+	return mooreOf(n, d.below(manyMoores(n)))
+}
+
+// smallMoores are all machines of one state and of two.
+func smallMoores() []impl.Moore {
+	return slices.Concat(mooresOf(1), mooresOf(2))
+}
+
+// allMoores are the machines with which the tests try what holds of each one: all of up to three states, and some of four.
+func allMoores() []impl.Moore {
+	all := slices.Concat(smallMoores(), mooresOf(3))
+	d := draw(40)
+	for range 3000 {
+		all = append(all, d.moore(impl.MaxStates))
+	}
+	return all
+}
+
+// twoActTables are tables of two acts: all with numbers in -1..1, and some with greater ones.
+func twoActTables() [][][]int {
+	all := append(smallTables(2, 2), dilemma(), sameSquare(impl.MaxPay, 2), sameSquare(-impl.MaxPay, 2))
+	d := draw(41)
+	for range 60 {
+		all = append(all, d.table(2, 2, 3), d.table(2, 2, impl.MaxPay))
+	}
+	return all
+}
+
+// forMeetings calls a function with two machines with which the tests try what holds of each two: all of up to two states, and some of up to four.
+func forMeetings(try func(m, o impl.Moore)) {
+	for _, m := range smallMoores() {
+		for _, o := range smallMoores() {
+			try(m, o)
+		}
+	}
+	d := draw(42)
+	for range 6000 {
+		try(d.moore(1+d.below(impl.MaxStates)), d.moore(1+d.below(impl.MaxStates)))
+	}
+	for range 2000 {
+		try(d.moore(impl.MaxStates), d.moore(impl.MaxStates))
+	}
+}
+
+// badMoores are machines that are not valid.
+func badMoores() []impl.Moore {
+	stay := []int{0, 0}
+	all := []impl.Moore{
+		// No states, and more than MaxStates.
+		{},
+		{Acts: []int{}, Next: [][]int{}},
+		{Acts: make([]int, impl.MaxStates+1), Next: slices.Repeat([][]int{stay}, impl.MaxStates+1)},
+		{Acts: make([]int, 1000), Next: slices.Repeat([][]int{stay}, 1000)},
+		// More acts than states, or fewer.
+		{Acts: []int{0}},
+		{Next: [][]int{stay}},
+		{Acts: []int{0, 1}, Next: [][]int{stay}},
+		{Acts: []int{0}, Next: [][]int{stay, stay}},
+		{Acts: []int{0, 1, 0, 1}, Next: [][]int{stay, stay, stay}},
+		{Acts: []int{0, 1, 0}, Next: [][]int{stay, stay, stay, stay}},
+		{Acts: make([]int, impl.MaxStates), Next: slices.Repeat([][]int{stay}, impl.MaxStates+1)},
+		{Acts: make([]int, impl.MaxStates+1), Next: slices.Repeat([][]int{stay}, impl.MaxStates)},
+		{Acts: make([]int, 1000), Next: [][]int{stay}},
+	}
+	d := draw(43)
+	for n := 1; n <= impl.MaxStates; n++ {
+		for state := range n {
+			for _, act := range []int{math.MinInt, -1, 2, 3, math.MaxInt} {
+				m := d.moore(n)
+				m.Acts[state] = act
+				all = append(all, m)
+			}
+			for _, to := range []int{math.MinInt, -1, n, n + 1, math.MaxInt} {
+				for act := range 2 {
+					m := d.moore(n)
+					m.Next[state][act] = to
+					all = append(all, m)
+				}
+			}
+			for _, next := range [][]int{nil, {}, {0}, {n - 1}, {0, 0, 0}, {0, n - 1, 0, 0}, make([]int, 1000)} {
+				m := d.moore(n)
+				m.Next[state] = next
+				all = append(all, m)
+			}
+		}
+	}
+	return all
+}
+
+// notOfTwoActs are tables that are no squares, and squares that are not of two acts.
+func notOfTwoActs() [][][]int {
+	d := draw(44)
+	return append(badSquares(), [][]int{{0}}, [][]int{{impl.MaxPay}}, sameSquare(0, 3), sameSquare(1, 3), dilemma()[:1], d.table(3, 3, impl.MaxPay), beats())
+}
+
+// guardedMoore is a machine laid out so that each change around it can be seen.
+type guardedMoore struct {
+	machine    impl.Moore
+	acts, next guard
+}
+
+// guardMoore returns a copy of a machine laid out so.
+func guardMoore(m impl.Moore) guardedMoore {
+	acts, next := guarded([][]int{m.Acts}), guarded(m.Next)
+	return guardedMoore{machine: impl.Moore{Acts: acts.table[0], Next: next.table}, acts: acts, next: next}
+}
+
+// unchanged reports whether the machine is as it was.
+func (g guardedMoore) unchanged() bool {
+	return g.acts.unchanged() && g.next.unchanged()
+}

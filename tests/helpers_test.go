@@ -1011,3 +1011,137 @@ func guardMoore(m impl.Moore) guardedMoore {
 func (g guardedMoore) unchanged() bool {
 	return g.acts.unchanged() && g.next.unchanged()
 }
+
+// pennies is a game in which the first player wants both acts to be the same, and the second one does not.
+func pennies() impl.Game {
+	a := [][]int{{1, -1}, {-1, 1}}
+	return impl.Game{A: a, B: otherSign(a)}
+}
+
+// clockwise is a game of two rows and two columns in which each player in turn has more by the other act, from each pair on.
+func clockwise() impl.Game {
+	return impl.Game{A: [][]int{{1, 0}, {0, 1}}, B: [][]int{{0, 2}, {2, 0}}}
+}
+
+// noRestGames are games of which no reply ends: from each pair on someone has more by another act.
+func noRestGames() []impl.Game {
+	beaten := impl.Game{A: beats(), B: otherSign(beats())}
+	wide := impl.Game{A: [][]int{{2, 0, 0}, {0, 2, 1}}, B: [][]int{{0, 2, 2}, {2, 0, 0}}}
+	return []impl.Game{pennies(), exchanged(pennies()), clockwise(), beaten, exchanged(beaten), wide, exchanged(wide)}
+}
+
+// roundAndRest is a game with a pair at which both rest, and with others from which replies do not come to it.
+func roundAndRest() impl.Game {
+	return impl.Game{A: [][]int{{1, -1, -9}, {-1, 1, -9}, {-9, -9, 9}}, B: [][]int{{-1, 1, -9}, {1, -1, -9}, {-9, -9, 9}}}
+}
+
+// moveGames are games with which the tests try what holds of replies and of learning: also those of which no reply ends, and tables against the same with the other signs.
+func moveGames() []impl.Game {
+	all := append(slices.Concat(allGames(), noRestGames()), roundAndRest(), ofBoth(dilemma()), exchanged(roundAndRest()))
+	for _, a := range drawnTables() {
+		all = append(all, impl.Game{A: a, B: otherSign(a)})
+	}
+	return all
+}
+
+// costs returns costs of n states in 0..most.
+func (d *draw) costs(n, most int) [][]int {
+	c := make([][]int, n)
+	for i := range c {
+		for range n {
+			c[i] = append(c[i], d.below(most+1))
+		}
+	}
+	return c
+}
+
+// costsLike are all costs of n states with ways to other ones in 0..most, and with any ways from a state to itself.
+func costsLike(d *draw, n, most int) [][][]int {
+	var all [][][]int
+	forRowsOf(n*(n-1), 0, most, func(row []int) {
+		c, at := d.costs(n, impl.MaxCost), 0
+		for i := range c {
+			for j := range c[i] {
+				if j != i {
+					c[i][j] = row[at]
+					at++
+				}
+			}
+		}
+		all = append(all, c)
+	})
+	return all
+}
+
+// allCosts are all costs with which the tests try what holds of each one: all of one state and of two, all with small numbers, and some with great ones.
+func allCosts() [][][]int {
+	d := draw(45)
+	var all [][][]int
+	for cost := range impl.MaxCost + 1 {
+		all = append(all, [][]int{{cost}})
+	}
+	all = append(all, costsLike(&d, 2, impl.MaxCost)...)
+	all = append(all, costsLike(&d, 3, 2)...)
+	all = append(all, costsLike(&d, 4, 1)...)
+	for n := 1; n <= impl.MaxStates; n++ {
+		all = append(all, d.costs(n, 0), filledCosts(n, 1), filledCosts(n, impl.MaxCost))
+		for _, most := range []int{2, 3, 5, impl.MaxCost} {
+			for range 200 * n {
+				all = append(all, d.costs(n, most))
+			}
+		}
+	}
+	return all
+}
+
+// filledCosts returns costs of n states that are all the same.
+func filledCosts(n, cost int) [][]int {
+	c := make([][]int, n)
+	for i := range c {
+		c[i] = slices.Repeat([]int{cost}, n)
+	}
+	return c
+}
+
+// badCosts are rows that are no costs.
+func badCosts() [][][]int {
+	all := [][][]int{
+		nil,
+		{},
+		{nil},
+		{{}},
+		{{}, {}},
+		filledCosts(impl.MaxStates+1, 0),
+		filledCosts(impl.MaxStates+1, 1),
+		make([][]int, 1000),
+		{make([]int, 1000)},
+	}
+	d := draw(46)
+	for n := 1; n <= impl.MaxStates; n++ {
+		all = append(all, make([][]int, n))
+		if n > 1 {
+			all = append(all, d.costs(n, 3)[:n-1], d.costs(n, 3)[1:])
+		}
+		all = append(all, append(d.costs(n, 3), make([]int, n)))
+		for i := range n {
+			for _, row := range [][]int{nil, {}, make([]int, n-1), make([]int, n+1), make([]int, 1000)} {
+				c := d.costs(n, 3)
+				c[i] = row
+				all = append(all, c)
+			}
+			for j := range n {
+				for _, cost := range []int{math.MinInt, -impl.MaxCost, -1, impl.MaxCost + 1, math.MaxInt} {
+					c := d.costs(n, 3)
+					c[i][j] = cost
+					all = append(all, c)
+				}
+			}
+		}
+	}
+	return all
+}
+
+// badRoots are numbers that are no states of n.
+func badRoots(n int) []int {
+	return []int{math.MinInt, -n, -1, n, n + 1, math.MaxInt}
+}

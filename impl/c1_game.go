@@ -40,11 +40,16 @@ func validRow(row []int) bool {
 		return false
 	}
 	for _, n := range row {
-		if n < -MaxPay || n > MaxPay {
+		if !isPay(n) {
 			return false
 		}
 	}
 	return true
+}
+
+// isPay reports whether a number may be one of a table.
+func isPay(n int) bool {
+	return n >= -MaxPay && n <= MaxPay
 }
 
 // ValidGame reports whether tables are a game.

@@ -559,15 +559,15 @@ func TestReplyMovesOfRowsAndColumnsThatAreNotThere(t *testing.T) {
 	for _, shape := range shapes() {
 		rows, cols := shape[0], shape[1]
 		g := impl.Game{A: d.table(rows, cols, 3), B: d.table(rows, cols, 3)}
-		for _, i := range badRoots(rows) {
+		for _, i := range notBelow(rows) {
 			for j := range cols {
 				checkNoMoves(t, g, i, j)
 			}
-			for _, j := range badRoots(cols) {
+			for _, j := range notBelow(cols) {
 				checkNoMoves(t, g, i, j)
 			}
 		}
-		for _, j := range badRoots(cols) {
+		for _, j := range notBelow(cols) {
 			for i := range rows {
 				checkNoMoves(t, g, i, j)
 			}
@@ -617,7 +617,7 @@ func TestTreesOfRowsThatAreNoCosts(t *testing.T) {
 func TestTreesToRootsThatAreNoStates(t *testing.T) {
 	d := draw(48)
 	for n := 1; n <= impl.MaxStates; n++ {
-		for _, root := range badRoots(n) {
+		for _, root := range notBelow(n) {
 			checkNoTree(t, filledCosts(n, 0), root)
 			checkNoTree(t, d.costs(n, impl.MaxCost), root)
 		}

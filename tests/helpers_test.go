@@ -1141,7 +1141,198 @@ func badCosts() [][][]int {
 	return all
 }
 
-// badRoots are numbers that are no states of n.
-func badRoots(n int) []int {
+// notBelow are numbers that are none of the n numbers from 0 on.
+func notBelow(n int) []int {
 	return []int{math.MinInt, -n, -1, n, n + 1, math.MaxInt}
+}
+
+// parentsFor are all rows of parents that person i may have.
+func parentsFor(i int) [][]int {
+	all := [][]int{{-1, -1}}
+	for first := range i {
+		for second := range i {
+			if first != second {
+				all = append(all, []int{first, second})
+			}
+		}
+	}
+	return all
+}
+
+// folkOf are all n people, with any parents.
+func folkOf(n int) [][][]int {
+	all := [][][]int{nil}
+	for i := range n {
+		var more [][][]int
+		for _, folk := range all {
+			for _, parents := range parentsFor(i) {
+				more = append(more, append(cloned(folk), slices.Clone(parents)))
+			}
+		}
+		all = more
+	}
+	return all
+}
+
+// allFolk are all people that are valid, of any number.
+func allFolk() [][][]int {
+	var all [][][]int
+	for n := 1; n <= impl.MaxFolk; n++ {
+		all = append(all, folkOf(n)...)
+	}
+	return all
+}
+
+// folk returns n people with drawn parents.
+func (d *draw) folk(n int) [][]int {
+	var folk [][]int
+	for i := range n {
+		parents := parentsFor(i)
+		folk = append(folk, parents[d.below(len(parents))])
+	}
+	return folk
+}
+
+// badParents are rows that are no parents of person i of n.
+func badParents(i, n int) [][]int {
+	all := [][]int{
+		nil,
+		{},
+		{-1},
+		{0},
+		{-1, -1, -1},
+		{0, 1, 2},
+		make([]int, 1000),
+		slices.Repeat([]int{-1}, 1000),
+		{-2, -2},
+		{-2, -1},
+		{-1, -2},
+		{-i - 1, -i - 2},
+		{math.MinInt, math.MaxInt},
+		{math.MaxInt, math.MinInt},
+		// Those who are not ahead.
+		{i, i},
+		{i, n - 1},
+		{i, i + 1},
+		{i + 1, i},
+		{n, n + 1},
+		// One parent alone, who is not ahead.
+		{-1, i},
+		{i, -1},
+	}
+	for first := range i {
+		// One parent alone, and the same one twice.
+		all = append(all, []int{first}, []int{first, -1}, []int{-1, first}, []int{first, first})
+		for _, other := range []int{math.MinInt, -n, -2, i, i + 1, n, math.MaxInt} {
+			all = append(all, []int{first, other}, []int{other, first})
+		}
+		all = append(all, []int{first, (first + 1) % i, -1}, []int{-1, first, (first + 1) % i})
+	}
+	return all
+}
+
+// badFolk are rows that are no people.
+func badFolk() [][][]int {
+	unknown := []int{-1, -1}
+	all := [][][]int{
+		// No people, or more than MaxFolk.
+		nil,
+		{},
+		slices.Repeat([][]int{unknown}, impl.MaxFolk+1),
+		append(slices.Repeat([][]int{unknown}, impl.MaxFolk), []int{0, 1}),
+		slices.Repeat([][]int{unknown}, 1000),
+		make([][]int, 1000),
+	}
+	d := draw(52)
+	for n := 1; n <= impl.MaxFolk; n++ {
+		all = append(all, make([][]int, n), slices.Repeat([][]int{{0, 0}}, n), slices.Repeat([][]int{{0, 1}}, n))
+		for i := range n {
+			for _, parents := range badParents(i, n) {
+				strangers, kin := slices.Repeat([][]int{unknown}, n), d.folk(n)
+				strangers[i], kin[i] = parents, parents
+				all = append(all, strangers, kin)
+			}
+		}
+	}
+	return all
+}
+
+// traits returns rows of traits in -most..most, with some children.
+func (d *draw) traits(rows, most int) [][]int {
+	var all [][]int
+	born := 0
+	for range rows {
+		children := d.below(most + 1)
+		all = append(all, []int{d.below(2*most+1) - most, children, d.below(2*most+1) - most})
+		born += children
+	}
+	if born == 0 {
+		all[d.below(rows)][1] = most
+	}
+	return all
+}
+
+// traitRows are rows of traits with which the tests try what holds of each one: all of one row, all of two with small numbers, and some of each number of rows.
+func traitRows() [][][]int {
+	var all [][][]int
+	for trait := -impl.MaxPay; trait <= impl.MaxPay; trait++ {
+		for theirs := -impl.MaxPay; theirs <= impl.MaxPay; theirs++ {
+			for children := 1; children <= impl.MaxPay; children++ {
+				all = append(all, [][]int{{trait, children, theirs}})
+			}
+		}
+	}
+	forRowsOf(6, 0, 2, func(row []int) {
+		if row[1]+row[4] > 0 {
+			all = append(all, [][]int{{row[0] - 1, row[1], row[2] - 1}, {row[3] - 1, row[4], row[5] - 1}})
+		}
+	})
+	d := draw(53)
+	for rows := 1; rows <= impl.MaxFolk; rows++ {
+		for _, most := range []int{1, 2, 4, impl.MaxPay} {
+			for range 300 {
+				all = append(all, d.traits(rows, most))
+			}
+		}
+	}
+	return all
+}
+
+// badTraits are rows that are no rows of traits with some children.
+func badTraits() [][][]int {
+	all := [][][]int{
+		// No rows, or more than MaxFolk.
+		nil,
+		{},
+		slices.Repeat([][]int{{1, 1, 1}}, impl.MaxFolk+1),
+		slices.Repeat([][]int{{0, 0, 0}}, impl.MaxFolk+1),
+		slices.Repeat([][]int{{1, 1, 1}}, 1000),
+		make([][]int, 1000),
+	}
+	d := draw(54)
+	for rows := 1; rows <= impl.MaxFolk; rows++ {
+		// No children.
+		all = append(all, make([][]int, rows), slices.Repeat([][]int{{0, 0, 0}}, rows), slices.Repeat([][]int{{3, 0, -4}}, rows))
+		for i := range rows {
+			for _, row := range [][]int{nil, {}, {1}, {1, 1}, {1, 1, 1, 1}, make([]int, 1000)} {
+				a := d.traits(rows, 3)
+				a[i] = row
+				all = append(all, a)
+			}
+			for at, least := range []int{-impl.MaxPay, 0, -impl.MaxPay} {
+				for _, n := range []int{math.MinInt, least - 2, least - 1, impl.MaxPay + 1, impl.MaxPay + 2, math.MaxInt} {
+					a := d.traits(rows, 3)
+					a[i][at] = n
+					all = append(all, a)
+				}
+			}
+		}
+	}
+	// Traits count also in a row without children, if others have some.
+	return append(all,
+		[][]int{{1, 2, 3}, {impl.MaxPay + 1, 0, 0}}, [][]int{{-impl.MaxPay - 1, 0, 0}, {1, 2, 3}},
+		[][]int{{1, 2, 3}, {0, 0, impl.MaxPay + 1}}, [][]int{{0, 0, -impl.MaxPay - 1}, {1, 2, 3}},
+		// More children in one row make no fewer than 0 in another one.
+		[][]int{{1, 5, 1}, {1, -1, 1}}, [][]int{{1, -1, 1}, {1, 1, 1}},
+	)
 }

@@ -1336,3 +1336,146 @@ func badTraits() [][][]int {
 		[][]int{{1, 5, 1}, {1, -1, 1}}, [][]int{{1, -1, 1}, {1, 1, 1}},
 	)
 }
+
+// plainTalk is a talk in which who speaks, of either type, and who hears want the same act, another one for each type, and talk is free.
+func plainTalk() impl.Talk {
+	return impl.Talk{Weights: []int{1, 1}, Speaks: [][]int{{1, 0}, {0, 1}}, Hears: [][]int{{1, 0}, {0, 1}}, Costs: [][]int{{0, 0}, {0, 0}}}
+}
+
+// sameWish is a talk in which both types want the act 1, who hears wants it for the type 1 only, and talk is free.
+func sameWish() impl.Talk {
+	return impl.Talk{Weights: []int{1, 1}, Speaks: [][]int{{0, 1}, {0, 1}}, Hears: [][]int{{1, 0}, {0, 1}}, Costs: [][]int{{0, 0}, {0, 0}}}
+}
+
+// disguise is a talk without rests: each type wants to be taken for the other one, and a signal of its own costs it nothing.
+func disguise() impl.Talk {
+	return impl.Talk{Weights: []int{1, 2}, Speaks: [][]int{{0, 3}, {3, 0}}, Hears: [][]int{{1, 0}, {0, 1}}, Costs: [][]int{{0, 1}, {1, 0}}}
+}
+
+// withCosts returns a talk with other costs.
+func withCosts(talk impl.Talk, costs [][]int) impl.Talk {
+	talk.Costs = costs
+	return talk
+}
+
+// freeOf returns a talk with no costs.
+func freeOf(talk impl.Talk) impl.Talk {
+	return withCosts(talk, [][]int{{0, 0}, {0, 0}})
+}
+
+// clonedTalk returns a copy of a talk that shares nothing with it.
+func clonedTalk(talk impl.Talk) impl.Talk {
+	return impl.Talk{Weights: slices.Clone(talk.Weights), Speaks: cloned(talk.Speaks), Hears: cloned(talk.Hears), Costs: cloned(talk.Costs)}
+}
+
+// sameTalk reports whether two talks have the same numbers.
+func sameTalk(talk, other impl.Talk) bool {
+	return slices.Equal(talk.Weights, other.Weights) && sameRows(talk.Speaks, other.Speaks) && sameRows(talk.Hears, other.Hears) && sameRows(talk.Costs, other.Costs)
+}
+
+// talk returns a talk with numbers up to a size.
+func (d *draw) talk(size int) impl.Talk {
+	return impl.Talk{Weights: []int{1 + d.below(size), 1 + d.below(size)}, Speaks: d.table(2, 2, size), Hears: d.table(2, 2, size), Costs: d.costs(2, size)}
+}
+
+// alikeTalks returns a talk, and it with no costs, with signals that cost the same, with types that want the same, with who hears who does not care, and with all of these.
+func alikeTalks(talk impl.Talk) []impl.Talk {
+	evenly, wish, careless := clonedTalk(talk), clonedTalk(talk), clonedTalk(talk)
+	for kind := range 2 {
+		evenly.Costs[kind][1] = evenly.Costs[kind][0]
+		careless.Hears[kind][1] = careless.Hears[kind][0]
+	}
+	wish.Speaks[1] = slices.Clone(wish.Speaks[0])
+	wishEvenly := withCosts(clonedTalk(wish), cloned(evenly.Costs))
+	all := impl.Talk{Weights: []int{1, 1}, Speaks: cloned(wish.Speaks), Hears: cloned(careless.Hears), Costs: cloned(evenly.Costs)}
+	return []impl.Talk{talk, freeOf(talk), evenly, wish, freeOf(wish), wishEvenly, careless, freeOf(careless), all, freeOf(all)}
+}
+
+// smallTalks are all talks with the numbers 0 and 1, and with some weights.
+func smallTalks() []impl.Talk {
+	var all []impl.Talk
+	forRowsOf(12, 0, 1, func(row []int) {
+		table := func(at int) [][]int {
+			return [][]int{slices.Clone(row[at : at+2]), slices.Clone(row[at+2 : at+4])}
+		}
+		for _, weights := range [][]int{{1, 1}, {1, 2}, {impl.MaxPay, 1}} {
+			all = append(all, impl.Talk{Weights: slices.Clone(weights), Speaks: table(0), Hears: table(4), Costs: table(8)})
+		}
+	})
+	return all
+}
+
+// allTalks are all talks with which the tests try what holds of each one: all with the numbers 0 and 1, and some with greater ones.
+func allTalks() []impl.Talk {
+	all := append(smallTalks(), plainTalk(), sameWish(), disguise())
+	d := draw(61)
+	for _, size := range []int{1, 2, 4, impl.MaxPay} {
+		for range 400 {
+			all = append(all, alikeTalks(d.talk(size))...)
+		}
+	}
+	return all
+}
+
+// badPairsOf are rows that are not two numbers in least..MaxPay.
+func badPairsOf(d *draw, least int) [][]int {
+	all := [][]int{nil, {}, {1}, {impl.MaxPay}, {1, 1, 1}, {1, 2, 3, 4}, slices.Repeat([]int{1}, 1000)}
+	for _, n := range []int{math.MinInt, least - impl.MaxPay, least - 1, impl.MaxPay + 1, 2 * impl.MaxPay, math.MaxInt} {
+		good := least + d.below(impl.MaxPay+1-least)
+		all = append(all, []int{n, good}, []int{good, n}, []int{n, n})
+	}
+	return all
+}
+
+// badTwoRows are rows that are not two, of two numbers in least..MaxPay each.
+func badTwoRows(d *draw, least int) [][][]int {
+	all := [][][]int{nil, {}, {nil}, {{}, {}}, {{1, 1}}, {nil, {1, 1}}, {{1, 1, 1, 1}}, {{1, 1}, {1, 1}, {1, 1}}, {{1, 1}, {1, 1}, nil}, {{1, 1}, {1, 1}, {}}, slices.Repeat([][]int{{1, 1}}, 1000), make([][]int, 2), make([][]int, 1000)}
+	for _, row := range badPairsOf(d, least) {
+		all = append(all, [][]int{row, {1, 1}}, [][]int{{1, 1}, row}, [][]int{slices.Clone(row), row})
+	}
+	return all
+}
+
+// badTalks are talks that are not valid.
+func badTalks() []impl.Talk {
+	d := draw(62)
+	all := []impl.Talk{{}, {Weights: []int{}, Speaks: [][]int{}, Hears: [][]int{}, Costs: [][]int{}}}
+	for _, good := range []impl.Talk{plainTalk(), sameWish(), d.talk(1), d.talk(impl.MaxPay)} {
+		change := func(put func(talk *impl.Talk)) {
+			talk := clonedTalk(good)
+			put(&talk)
+			all = append(all, talk)
+		}
+		for _, weights := range badPairsOf(&d, 1) {
+			change(func(talk *impl.Talk) { talk.Weights = weights })
+		}
+		for _, rows := range badTwoRows(&d, -impl.MaxPay) {
+			change(func(talk *impl.Talk) { talk.Speaks = rows })
+			change(func(talk *impl.Talk) { talk.Hears = cloned(rows) })
+		}
+		for _, rows := range badTwoRows(&d, 0) {
+			change(func(talk *impl.Talk) { talk.Costs = rows })
+		}
+	}
+	return all
+}
+
+// guardedTalk is a talk laid out so that each change around it can be seen.
+type guardedTalk struct {
+	talk  impl.Talk
+	parts []guard
+}
+
+// guardTalk returns a copy of a talk laid out so.
+func guardTalk(talk impl.Talk) guardedTalk {
+	weights, speaks, hears, costs := guarded([][]int{talk.Weights}), guarded(talk.Speaks), guarded(talk.Hears), guarded(talk.Costs)
+	return guardedTalk{
+		talk:  impl.Talk{Weights: weights.table[0], Speaks: speaks.table, Hears: hears.table, Costs: costs.table},
+		parts: []guard{weights, speaks, hears, costs},
+	}
+}
+
+// unchanged reports whether the talk is as it was.
+func (g guardedTalk) unchanged() bool {
+	return !slices.ContainsFunc(g.parts, func(part guard) bool { return !part.unchanged() })
+}

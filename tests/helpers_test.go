@@ -1,8 +1,10 @@
 package tests
 
 import (
+	"fmt"
 	"math"
 	"slices"
+	"strings"
 	"testing"
 
 	"loop.example/strategiesthatspread/impl"
@@ -1478,4 +1480,114 @@ func guardTalk(talk impl.Talk) guardedTalk {
 // unchanged reports whether the talk is as it was.
 func (g guardedTalk) unchanged() bool {
 	return !slices.ContainsFunc(g.parts, func(part guard) bool { return !part.unchanged() })
+}
+
+// deskWords are all words of the desk.
+func deskWords() []string {
+	return []string{"value", "stable", "rests", "fixed", "lasting"}
+}
+
+// rowsText returns rows of numbers with commas between two numbers, and a / between two rows.
+func rowsText(rows [][]int) string {
+	var text strings.Builder
+	for i, row := range rows {
+		if i > 0 {
+			text.WriteString("/")
+		}
+		for j, n := range row {
+			if j > 0 {
+				text.WriteString(",")
+			}
+			fmt.Fprint(&text, n)
+		}
+	}
+	return text.String()
+}
+
+// deskLine returns the line of a word and rows.
+func deskLine(word string, rows [][]int) string {
+	return word + " " + rowsText(rows)
+}
+
+// rowsFor are, for each word of the desk, rows with which it is asked.
+func rowsFor() map[string][][][]int {
+	return map[string][][][]int{"value": mixTables(), "stable": squareTables(), "rests": squareTables(), "fixed": pairTables(), "lasting": allCosts()}
+}
+
+// rightLines are lines that are answered otherwise than by wrong or by what, with all words and shapes.
+func rightLines() []string {
+	return []string{
+		"value 0", "value -9", "value 3,1/0,2", "value -3,-1/0,-2", "value 3,-2,-2", "value -4/-1/-1", "value 1,3,9/8,5,2", "value 0,-1,2/1,0,-3/-2,3,0",
+		"stable 4", "stable 2,0/0,1", "stable -1,4/0,2", "stable 1,0,0/0,2,0/0,0,3",
+		"rests -5", "rests 2,0/0,1", "rests -1,4/0,2", "rests 0,-1,1/1,0,-1/-1,1,0",
+		"fixed 2,2/2,2", "fixed 1,3/2,1", "fixed 9,1/1,9",
+		"lasting 0", "lasting 20", "lasting 0,4/1,0", "lasting 0,9,2/9,0,13/2,4,0", "lasting 0,1,20,10/20,0,1,9/1,20,0,8/20,20,20,0",
+	}
+}
+
+// linesNear are all lines that come from a line by one byte more, less or other, or by two bytes exchanged.
+func linesNear(line string) []string {
+	const bytes = "0123456789-+,/ .xva_\n\t\r\x00\xff"
+	near := []string{line}
+	for at := range len(line) + 1 {
+		for k := range len(bytes) {
+			near = append(near, line[:at]+bytes[k:k+1]+line[at:])
+			if at < len(line) {
+				near = append(near, line[:at]+bytes[k:k+1]+line[at+1:])
+			}
+		}
+		if at < len(line) {
+			near = append(near, line[:at]+line[at+1:], line[:at], line[at:])
+		}
+		if at+1 < len(line) {
+			near = append(near, line[:at]+line[at+1:at+2]+line[at:at+1]+line[at+2:])
+		}
+	}
+	return near
+}
+
+// wrongTexts are texts without spaces that are no rows of numbers in decimal, or of numbers that none has.
+func wrongTexts() []string {
+	return []string{
+		"", ",", "/", ",,", "//", "/,", ",/", "-", "--", "-,-", "-/-", "+", ".",
+		"1,", ",1", "1,,1", "1/", "/1", "1//1", "1,/1", "1/,1", "1,1/1,1/", "/1,1/1,1", "1,1/1,1,", ",1,1/1,1", "1,1//1,1", "1,1,/1,1", "1,1/,1,1",
+		"+1", "+0", "-0", "--1", "-+1", "+-1", "1-", "1-1", "01", "00", "-01", "007", "1,-0", "1,1/1,01", "1,1/1,+1", "0x1", "0b1", "0o1", "1e0", "1.", "1.0", ".5", "1_0", "1/1/",
+		"1;1", "1:1", "1|1", "1\\1", "[1]", "{{1}}", "(1)", "\"1\"", "'1'", "x", "one", "1x", "x1", "a,b/c,d", "nil", "true", "1,x/1,1", "Inf", "NaN", "-Inf", "%d",
+		"1\n", "\n1", "1,\n1", "1/\n1", "1\t", "\t1", "1\r", "1\r\n", "\n", "\t", "\x00", "1\x00", "\x00" + "1", "\xff", "1\xff", "\u00a01", "1\u00a0", "1,\u20031", "\ufeff1", "\u22121", "1\uff0c1", "\u0661", "\uff11", "\u00bd",
+		"99", "-99", "1,1/1,99", "9223372036854775807", "-9223372036854775808", "9223372036854775808", "-9223372036854775809",
+		"18446744073709551616", "18446744073709551617", "-18446744073709551615", "4294967297", "340282366920938463463374607431768211457", "00000000000000000000000000000001",
+		"value", "value1", "wrong", "what",
+	}
+}
+
+// whatLines are lines that are of no word of the desk.
+func whatLines() []string {
+	return []string{
+		"", " ", "  ", "\n", "\t", "\x00", "\xff", "1", "1,2/3,4", " 1", "1 2", "-", "/", ",", "walk 1", "walk", "x", "x y", "x 1,1/1,1",
+		"values 1", "rest 1", "fix 1,1/1,1", "last 0", "best 1", "mix 1", "what", "what 1", "wrong", "wrong 1", "value,stable 1", "value/stable 1",
+		"value\n1", "value\t1", "\nvalue 1", "\tvalue 1", "\ufeffvalue 1", "value 1 ", "value  1", " value 1", "value 1\n value 2", "value 1 # one", "value -1 -1", "value - 1", "value 1 , 2", "value 1 / 2",
+	}
+}
+
+// desks are rows of lines of all kinds, of up to as many as there may be.
+func desks() [][]string {
+	kinds := [][]string{rightLines(), rightLines(), whatLines(), nil}
+	for _, word := range deskWords() {
+		for _, text := range wrongTexts() {
+			kinds[3] = append(kinds[3], word+" "+text)
+		}
+	}
+	d := draw(66)
+	var all [][]string
+	for n := range impl.MaxDesk + 1 {
+		for range 10 {
+			desk := make([]string, n)
+			for i := range desk {
+				kind := kinds[d.below(len(kinds))]
+				desk[i] = kind[d.below(len(kind))]
+			}
+			all = append(all, desk)
+		}
+	}
+	return all
 }
